@@ -16,6 +16,9 @@ const (
 	journalRead = 2
 )
 
+// maxLine is how many bytes disk.ParseChanges takes.
+const maxLine = 4 * api.MaxText
+
 // PrintJournal writes a journal.
 func PrintJournal(j api.Journal) (string, api.Errno) {
 	if !ver.IsName(j.Id) {
@@ -126,7 +129,7 @@ func (r *reader) changes(word string) ([]api.Change, api.Errno) {
 	var l []api.Change
 	fault := api.OK
 	for i := 0; i < many && !r.wrong; i++ {
-		one, _, e := disk.ParseChanges(r.line())
+		one, _, e := disk.ParseChanges(brief(r.line()))
 		switch {
 		case e == api.ErrSyntax:
 			r.wrong = true
@@ -136,6 +139,31 @@ func (r *reader) changes(word string) ([]api.Change, api.Errno) {
 		l = append(l, one...)
 	}
 	return l, fault
+}
+
+// brief cuts the words of a line that is too long for disk.ParseChanges, which has the same to say of what it returns:
+// a word that was cut is still too long for whatever it can be.
+func brief(line string) string {
+	if len(line) <= maxLine {
+		return line
+	}
+	cut := func(s string) string { return s[:min(len(s), api.MaxData+1)] }
+	kind, rest, _ := strings.Cut(strings.TrimSuffix(line, "\n"), " ")
+	key, quoted, _ := strings.Cut(rest, " ")
+	switch kind {
+	case "put", "putrun", "set":
+		text, e := disk.Unquote(quoted)
+		if e != api.OK {
+			return kind + "\n" // as wrong as the line is
+		}
+		return kind + " " + cut(key) + " " + disk.Quote(cut(text)) + "\n"
+	}
+	// A service has four words; a fifth one is wrong, whatever it is.
+	words := strings.SplitN(rest, " ", 5)
+	for i, word := range words {
+		words[i] = cut(word)
+	}
+	return cut(kind) + " " + strings.Join(words, " ") + "\n"
 }
 
 // number reads a line with a number behind a word.

@@ -63,6 +63,62 @@ func TestG1Long(t *testing.T) {
 	}
 }
 
+// TestG1LongLines has changes in lines that are longer than disk.ParseChanges takes.
+func TestG1LongLines(t *testing.T) {
+	huge, blanks := long(1<<22), strings.Repeat(" ", 1<<22)
+	for line, want := range map[string]api.Errno{
+		`put a "` + huge + `"`:                       api.ErrLarge,
+		`putrun a "` + huge + `\n"`:                  api.ErrLarge,
+		`put a "` + blanks + `"`:                     api.ErrLarge,
+		`put / "` + huge + `"`:                       api.ErrName,
+		`put ` + huge + ` ""`:                        api.ErrName,
+		`put ` + huge + ` "` + huge + `"`:            api.ErrName,
+		`set a "` + huge + `"`:                       api.ErrForm,
+		`set ` + huge + ` "1"`:                       api.ErrName,
+		`remove ` + huge:                             api.ErrName,
+		`unset ` + huge:                              api.ErrName,
+		`drop ` + huge:                               api.ErrName,
+		`service ` + huge + ` a 0 1`:                 api.ErrName,
+		`service a ` + huge + ` 0 1`:                 api.ErrName,
+		`service ` + huge + ` ` + huge + ` 1 1`:      api.ErrName,
+		`put a "` + huge:                             api.ErrSyntax,
+		`put a ` + huge:                              api.ErrSyntax,
+		`put a "` + huge + `\x41"`:                   api.ErrSyntax,
+		`put a "` + long(api.MaxData) + `"` + huge:   api.ErrSyntax,
+		`put a "` + long(api.MaxData-1) + `"` + huge: api.ErrSyntax,
+		`put  "` + huge + `"`:                        api.ErrSyntax,
+		`put a  "` + huge + `"`:                      api.ErrSyntax,
+		`put ` + huge:                                api.ErrSyntax,
+		`put ` + blanks:                              api.ErrSyntax,
+		`set a "` + huge + `" `:                      api.ErrSyntax,
+		`file a "` + huge + `"`:                      api.ErrSyntax,
+		`remove a ` + huge:                           api.ErrSyntax,
+		`remove  ` + huge:                            api.ErrSyntax,
+		`remove ` + huge + ` `:                       api.ErrSyntax,
+		`remove ` + blanks:                           api.ErrSyntax,
+		`service a a 0 1` + huge:                     api.ErrSyntax,
+		`service a a 0 1 ` + huge:                    api.ErrSyntax,
+		`service a a 0 1 ` + blanks:                  api.ErrSyntax,
+		`service a ` + huge + ` 0`:                   api.ErrSyntax,
+		`service a a ` + huge + ` 0`:                 api.ErrSyntax,
+		`service  ` + huge + ` 0 0`:                  api.ErrSyntax,
+		huge:                                         api.ErrSyntax,
+		blanks:                                       api.ErrSyntax,
+		huge + ` a`:                                  api.ErrSyntax,
+	} {
+		what := line[:8] + ".." + line[len(line)-8:]
+		line += "\n"
+		for _, text := range []string{"changes 1\n" + line + "old 0\n", "changes 0\nold 1\n" + line, "changes 2\n" + line + "drop A\nold 0\n"} {
+			j, e := stage.ParseJournal(sealed("journal a\n" + text))
+			isJournal(t, what, j, e, api.Journal{}, want)
+		}
+		// As disk.ParseChanges has it, as far as it reads such lines.
+		if _, _, e := disk.ParseChanges(strings.NewReplacer(huge, huge[:1<<20], blanks, blanks[:1<<20]).Replace(line)); e != want {
+			t.Error(what, e, want)
+		}
+	}
+}
+
 // TestG1Full has transactions as large as they can be, and as many cuts as there may be.
 func TestG1Full(t *testing.T) {
 	m := full(api.MaxFiles - 3)
